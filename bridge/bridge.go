@@ -20,7 +20,7 @@ func New(coins uint64) (*Bridge, api.Errno) {
 	}
 	b := &Bridge{chains: [2]chain{newChain(0, coins), newChain(1, coins)}}
 	for c := range b.chains {
-		b.chains[c].known = b.chains[1-c].headers[0]
+		b.chains[c].known = newView(b.chains[1-c].headers[0])
 	}
 	return b, api.OK
 }
@@ -39,7 +39,7 @@ func (b *Bridge) Do(c int, s api.Step) (uint64, api.Errno) {
 	if on == nil {
 		return 0, api.ErrChain
 	}
-	n, e := on.step(s)
+	n, e := on.step(s, b.chains[1-c].headers)
 	if e == api.OK {
 		b.taken.Add(1)
 	}

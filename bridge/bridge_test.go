@@ -381,30 +381,28 @@ func TestBridgesDoNotHangOnEachOther(t *testing.T) {
 	}
 }
 
-// No coin of a chain is lost or made: what the accounts have and what is locked stays as many.
+// No coin of a chain is lost or made: what the accounts have and what is locked stays as many, and of what is locked only so much is about at the other as its accounts have.
 func TestCoinsStayAsMany(t *testing.T) {
-	b := begin(t, 1000)
-	x := uint64(1)
-	next := func(below uint64) uint64 {
-		x = x*6364136223846793005 + 1442695040888963407
-		return (x >> 33) % below
-	}
-	for range 3000 {
-		p := api.Packet{From: int(next(5)) - 1, To: int(next(9)) - 3, Coin: int(next(4)) - 1, Amount: next(30), Height: next(3), Time: next(3)}
-		s := api.Step{Kind: api.Kind(next(2) + 1), N: next(9), P: p}
-		b.Do(int(next(4))-1, s)
-	}
-	s := tell(t, b)
-	for c := range 2 {
-		all := s.Looks[c].Locked
-		for user := range api.Users {
-			all += s.Funds[c][user][c]
+	x := numbers(7)
+	for range 20 {
+		b := begin(t, 1000)
+		for range 1000 {
+			c := int(x.below(2))
+			b.Do(c, x.likely(look(t, b, c), look(t, b, 1-c).Height))
 		}
-		if all != api.Users*1000 || s.Looks[c].Locked == 0 {
-			t.Errorf("chain %d: %d coins in all, %d locked", c, all, s.Looks[c].Locked)
-		}
-		if int(s.Looks[c].NextSend) != len(s.Looks[c].Pending)+1 {
-			t.Errorf("chain %d: next to send %d, %d pending", c, s.Looks[c].NextSend, len(s.Looks[c].Pending))
+		s := tell(t, b)
+		for c := range 2 {
+			all, about := s.Looks[c].Locked, uint64(0)
+			for user := range api.Users {
+				all += s.Funds[c][user][c]
+				about += s.Funds[1-c][user][c]
+			}
+			if all != api.Users*1000 || s.Looks[c].Locked == 0 {
+				t.Errorf("chain %d: %d coins in all, %d locked", c, all, s.Looks[c].Locked)
+			}
+			if about != s.Looks[1-c].About || about > s.Looks[c].Locked {
+				t.Errorf("coin %d: %d about, %d in accounts, %d locked", c, s.Looks[1-c].About, about, s.Looks[c].Locked)
+			}
 		}
 	}
 }

@@ -21,10 +21,10 @@ type chain struct {
 	funds         map[holding]uint64 // none of a coin: no entry
 	locked, about uint64
 	headers       []header // by height
-	known         header   // of the other chain
+	known         view     // of the other chain
 }
 
-// newChain: as it is at the beginning, but for the other's header, which New lays in.
+// newChain: as it is at the beginning, but for what it knows of the other, which New lays in.
 func newChain(own int, coins uint64) chain {
 	c := chain{end: newEnd(), own: own, funds: map[holding]uint64{}}
 	if coins > 0 {
@@ -36,13 +36,19 @@ func newChain(own int, coins uint64) chain {
 	return c
 }
 
-// step: of any kind. An error leaves the chain as it was.
-func (c *chain) step(s api.Step) (uint64, api.Errno) {
+// step: of any kind; others are the other chain's headers that Update may go by. An error leaves the chain as it was.
+func (c *chain) step(s api.Step, others []header) (uint64, api.Errno) {
 	switch s.Kind {
 	case api.Send:
 		return c.send(s.P)
 	case api.Tick:
 		return 0, c.tick(s.N)
+	case api.Update:
+		return 0, c.update(s.N, others)
+	case api.Recv:
+		return 0, c.receive(s.N)
+	case api.Ack:
+		return 0, c.acknowledge(s.N)
 	}
 	return 0, api.ErrKind
 }
@@ -52,11 +58,6 @@ func (c *chain) send(p api.Packet) (uint64, api.Errno) {
 		return 0, e
 	}
 	c.take(holding{p.From, p.Coin}, p.Amount)
-	if p.Coin == c.own {
-		c.locked += p.Amount
-	} else {
-		c.about -= p.Amount
-	}
 	return c.post(p), api.OK
 }
 
@@ -65,7 +66,7 @@ func (c *chain) refusal(p api.Packet) api.Errno {
 	switch {
 	case !c.open:
 		return api.ErrClosed
-	case p.From < 0 || p.From >= api.Users:
+	case !account(p.From):
 		return api.ErrUser
 	case p.Coin != 0 && p.Coin != 1:
 		return api.ErrCoin
@@ -79,13 +80,33 @@ func (c *chain) refusal(p api.Packet) api.Errno {
 	return api.OK
 }
 
-// take: the account must have so many. An account that has none left keeps no entry.
+// account: is there one of that number?
+func account(user int) bool {
+	return user >= 0 && user < api.Users
+}
+
+// take: for a packet that goes out. The account must have so many; one that has none left keeps no entry.
 func (c *chain) take(h holding, amount uint64) {
 	if c.funds[h] == amount {
 		delete(c.funds, h)
-		return
+	} else {
+		c.funds[h] -= amount
 	}
-	c.funds[h] -= amount
+	if h.coin == c.own {
+		c.locked += amount
+	} else {
+		c.about -= amount
+	}
+}
+
+// give: take's other way, for a packet that has come over or comes back. No sum wraps round: the accounts of both chains never have more of a coin than they had at the beginning.
+func (c *chain) give(h holding, amount uint64) {
+	c.funds[h] += amount
+	if h.coin == c.own {
+		c.locked -= amount
+	} else {
+		c.about += amount
+	}
 }
 
 func (c *chain) tick(passed uint64) api.Errno {
