@@ -384,27 +384,43 @@ func TestBridgesDoNotHangOnEachOther(t *testing.T) {
 // No coin of a chain is lost or made: what the accounts have and what is locked stays as many, and of what is locked only so much is about at the other as its accounts have.
 func TestCoinsStayAsMany(t *testing.T) {
 	x := numbers(7)
+	locked := 0
 	for range 20 {
 		b := begin(t, 1000)
-		for range 1000 {
+		for k := range 1000 {
 			c := int(x.below(2))
 			b.Do(c, x.likely(look(t, b, c), look(t, b, 1-c).Height))
-		}
-		s := tell(t, b)
-		for c := range 2 {
-			all, about := s.Looks[c].Locked, uint64(0)
-			for user := range api.Users {
-				all += s.Funds[c][user][c]
-				about += s.Funds[1-c][user][c]
-			}
-			if all != api.Users*1000 || s.Looks[c].Locked == 0 {
-				t.Errorf("chain %d: %d coins in all, %d locked", c, all, s.Looks[c].Locked)
-			}
-			if about != s.Looks[1-c].About || about > s.Looks[c].Locked {
-				t.Errorf("coin %d: %d about, %d in accounts, %d locked", c, s.Looks[1-c].About, about, s.Looks[c].Locked)
+			if k%50 == 49 {
+				locked += coinsAsMany(t, b, 1000)
 			}
 		}
 	}
+	if locked < 400 {
+		t.Errorf("only %d times coins were locked", locked)
+	}
+}
+
+// coinsAsMany: at how many chains there are coins that are locked.
+func coinsAsMany(t *testing.T, b *bridge.Bridge, coins uint64) (locked int) {
+	t.Helper()
+	s := tell(t, b)
+	for c := range 2 {
+		all, about := s.Looks[c].Locked, uint64(0)
+		for user := range api.Users {
+			all += s.Funds[c][user][c]
+			about += s.Funds[1-c][user][c]
+		}
+		if all != api.Users*coins {
+			t.Errorf("chain %d: %d coins in all, %d locked", c, all, s.Looks[c].Locked)
+		}
+		if about != s.Looks[1-c].About || about > s.Looks[c].Locked {
+			t.Errorf("coin %d: %d about, %d in accounts, %d locked", c, s.Looks[1-c].About, about, s.Looks[c].Locked)
+		}
+		if s.Looks[c].Locked > 0 {
+			locked++
+		}
+	}
+	return locked
 }
 
 // Nor do the calls panic on a bridge that New did not make.

@@ -49,6 +49,14 @@ func (c *chain) step(s api.Step, others []header) (uint64, api.Errno) {
 		return 0, c.receive(s.N)
 	case api.Ack:
 		return 0, c.acknowledge(s.N)
+	case api.Timeout:
+		return 0, c.timeout(s.N)
+	case api.TimeoutClosed:
+		return 0, c.timeoutClosed(s.N)
+	case api.Close:
+		return 0, c.shut()
+	case api.Confirm:
+		return 0, c.confirm()
 	}
 	return 0, api.ErrKind
 }

@@ -7,55 +7,6 @@ import (
 	"bridge/api"
 )
 
-// What the steps that are built can't bring about yet (a closed end, a packet that is gone and was not received) is laid in by hand here.
-
-func TestSendAtAClosedEnd(t *testing.T) {
-	c := newChain(0, 100)
-	c.open = false
-	for _, p := range []api.Packet{{Amount: 1, Height: 1}, {From: 3}, {Coin: 2}, {}, {Amount: 101}, {Amount: 1}} {
-		if n, e := c.step(api.Step{Kind: api.Send, P: p}, nil); n != 0 || e != api.ErrClosed {
-			t.Errorf("Send of %v: %d, %d, want ErrClosed", p, n, e)
-		}
-	}
-	if len(c.pending) != 0 || c.nextSend != 1 || c.locked != 0 || c.funds[holding{0, 0}] != 100 {
-		t.Errorf("an error has changed the chain: %v", c.look())
-	}
-	if e := c.tick(1); e != api.OK || c.headers[1].Open || !c.headers[0].Open {
-		t.Errorf("Tick at a closed end: %d, headers %v", e, c.headers)
-	}
-}
-
-// An end that is closed receives nothing more, whatever else is wrong; what it has sent may still be answered.
-func TestRecvAndAckAtAClosedEnd(t *testing.T) {
-	b, _ := New(100)
-	for c := range b.chains {
-		b.Do(c, api.Step{Kind: api.Send, P: api.Packet{From: 1, To: 3 * c, Coin: c, Amount: 7, Height: 2}})
-		b.Do(c, api.Step{Kind: api.Tick})
-	}
-	one := &b.chains[1]
-	one.update(1, b.chains[0].headers)
-	one.open = false
-	one.height = 2
-	for _, seq := range []uint64{0, 1, 2, 9} {
-		if e := one.receive(seq); e != api.ErrClosed {
-			t.Errorf("Recv %d: %d, want ErrClosed", seq, e)
-		}
-	}
-	if one.nextRecv != 1 || len(one.answers) != 0 || one.about != 0 || one.funds[holding{0, 0}] != 0 {
-		t.Errorf("an error has changed the chain: %v", one.look())
-	}
-	zero := &b.chains[0]
-	zero.update(1, one.headers)
-	if e := zero.receive(1); e != api.OK {
-		t.Fatalf("Recv at the open end: %d", e)
-	}
-	zero.tick(0)
-	one.update(2, zero.headers)
-	if e := one.acknowledge(1); e != api.OK || len(one.pending) != 0 || one.locked != 0 || one.funds[holding{1, 1}] != 100 {
-		t.Errorf("Ack at a closed end: %d, %v", e, one.look())
-	}
-}
-
 // seen: a chain as its header of a height says, learned of header by header.
 func seen(headers []header, height uint64) view {
 	v := newView(headers[0])
@@ -99,23 +50,6 @@ func TestHeadersSayEachPacketAndAnswerOfTheirHeight(t *testing.T) {
 		v := seen(c.headers, x.head.Height)
 		if v.Head != x.head || !maps.Equal(v.packets, x.packets) || !maps.Equal(v.answers, x.answers) {
 			t.Errorf("header %v, want %v", v, x)
-		}
-	}
-}
-
-// A packet that has come back by the known header is none that may be received, though an older header had it.
-func TestRecvOfAPacketThatIsGone(t *testing.T) {
-	for _, known := range []uint64{0, 1} {
-		b, _ := New(100)
-		zero, one := &b.chains[0], &b.chains[1]
-		zero.send(api.Packet{Amount: 1, Height: 9})
-		zero.tick(0)
-		one.update(known, zero.headers)
-		zero.drop(1)
-		zero.tick(0)
-		one.update(2, zero.headers)
-		if e := one.receive(1); e != api.ErrPacket {
-			t.Errorf("Recv, having known header %d: %d, want ErrPacket", known, e)
 		}
 	}
 }

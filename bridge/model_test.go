@@ -76,6 +76,16 @@ func (b *plainBridge) step(k int, s api.Step) (uint64, api.Errno) {
 		return 0, c.receive(k, known, s.N)
 	case api.Ack:
 		return 0, c.acknowledge(k, known, s.N)
+	case api.Timeout, api.TimeoutClosed:
+		return 0, c.expire(k, known, s.N, s.Kind == api.TimeoutClosed)
+	case api.Close, api.Confirm:
+		if !c.open {
+			return 0, api.ErrClosed
+		}
+		if s.Kind == api.Confirm && known.open {
+			return 0, api.ErrOpen
+		}
+		c.open = false
 	default:
 		return 0, api.ErrKind
 	}
@@ -122,6 +132,11 @@ func (c *plain) credit(k, user int, p api.Packet) {
 	}
 }
 
+// past: is the packet due, at this chain or by this header?
+func (c *plain) past(p api.Packet) bool {
+	return p.Height != 0 && c.height >= p.Height || p.Time != 0 && c.time >= p.Time
+}
+
 func (c *plain) receive(k int, known plain, n uint64) api.Errno {
 	if !c.open {
 		return api.ErrClosed
@@ -133,7 +148,7 @@ func (c *plain) receive(k int, known plain, n uint64) api.Errno {
 	if !ok {
 		return api.ErrPacket
 	}
-	if p.Height != 0 && c.height >= p.Height || p.Time != 0 && c.time >= p.Time {
+	if c.past(p) {
 		return api.ErrLate
 	}
 	c.nextRecv++
@@ -163,6 +178,26 @@ func (c *plain) acknowledge(k int, known plain, n uint64) api.Errno {
 	return api.OK
 }
 
+func (c *plain) expire(k int, known plain, n uint64, closed bool) api.Errno {
+	p, ok := c.pending[n]
+	if !ok {
+		return api.ErrPacket
+	}
+	if closed && known.open {
+		return api.ErrOpen
+	}
+	if !closed && !known.past(p) {
+		return api.ErrEarly
+	}
+	if n < known.nextRecv {
+		return api.ErrEarly
+	}
+	delete(c.pending, n)
+	c.credit(k, p.From, p)
+	c.open = false
+	return api.OK
+}
+
 func (b *plainBridge) tell() state {
 	s := state{Taken: b.taken}
 	for k, c := range b.chains {
@@ -184,9 +219,24 @@ func (x *numbers) below(n uint64) uint64 {
 	return uint64(*x>>33) % n
 }
 
+// kind: while the end is open seldom one of those that may close it, as no step opens it again.
+func (x *numbers) kind(open bool) api.Kind {
+	switch n := x.below(400); {
+	case !open:
+		return api.Kind(n%9 + 1)
+	case n < 360:
+		return api.Kind(n%5 + 1)
+	case n < 396:
+		return api.Timeout + api.Kind(n%2)
+	case n < 399:
+		return api.Confirm
+	}
+	return api.Close
+}
+
 // likely: a step that now and then is of use, on a chain that looks so, with the other so high.
 func (x *numbers) likely(at api.Look, other uint64) api.Step {
-	s := api.Step{Kind: api.Kind(x.below(5) + 1)}
+	s := api.Step{Kind: x.kind(at.Open)}
 	switch s.Kind {
 	case api.Send:
 		s.P = api.Packet{Seq: x.below(9), From: int(x.below(4)), To: int(x.below(5)) - 1, Coin: int(x.below(2)), Amount: x.below(9), Height: x.below(3) * (at.Height + x.below(60))}
@@ -204,6 +254,11 @@ func (x *numbers) likely(at api.Look, other uint64) api.Step {
 		s.N = x.below(at.NextSend + 1)
 		if len(at.Pending) > 0 && x.below(3) > 0 {
 			s.N = at.Pending[0] + x.below(8)/7
+		}
+	case api.Timeout, api.TimeoutClosed:
+		s.N = x.below(at.NextSend + 1)
+		if len(at.Pending) > 0 && x.below(5) > 0 {
+			s.N = at.Pending[x.below(uint64(len(at.Pending)))]
 		}
 	}
 	return s
@@ -234,10 +289,14 @@ func TestAsThePlainTelling(t *testing.T) {
 		same(t, "the plain telling", tell(t, b), want.tell())
 	}
 	for kind, errors := range map[api.Kind][]api.Errno{
-		api.Send:   {api.OK, api.ErrUser, api.ErrCoin, api.ErrAmount, api.ErrFunds, api.ErrDue},
-		api.Update: {api.OK, api.ErrHeader},
-		api.Recv:   {api.OK, api.ErrOrder, api.ErrPacket, api.ErrLate},
-		api.Ack:    {api.OK, api.ErrPacket, api.ErrOrder, api.ErrAck},
+		api.Send:          {api.OK, api.ErrClosed, api.ErrUser, api.ErrCoin, api.ErrAmount, api.ErrFunds, api.ErrDue},
+		api.Update:        {api.OK, api.ErrHeader},
+		api.Recv:          {api.OK, api.ErrClosed, api.ErrOrder, api.ErrPacket, api.ErrLate},
+		api.Ack:           {api.OK, api.ErrPacket, api.ErrOrder, api.ErrAck},
+		api.Timeout:       {api.OK, api.ErrPacket, api.ErrEarly},
+		api.TimeoutClosed: {api.OK, api.ErrPacket, api.ErrOpen, api.ErrEarly},
+		api.Close:         {api.OK, api.ErrClosed},
+		api.Confirm:       {api.OK, api.ErrClosed, api.ErrOpen},
 	} {
 		for _, e := range errors {
 			if came[kind][e] == 0 {

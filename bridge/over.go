@@ -47,7 +47,7 @@ func (c *chain) acknowledge(seq uint64) api.Errno {
 	}
 	c.drop(seq)
 	if a == notCredited {
-		c.give(holding{p.From, p.Coin}, p.Amount)
+		c.comeBack(p)
 	}
 	return api.OK
 }
