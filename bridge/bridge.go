@@ -33,13 +33,27 @@ func (b *Bridge) find(c int) *chain {
 	return &b.chains[c]
 }
 
+// others: the other chain's headers that a chain's Update may go by: from the one that it knows on.
+func (b *Bridge) others(c int) []header {
+	on := b.find(c)
+	if on == nil {
+		return nil
+	}
+	return b.chains[1-c].headers[on.known.Height:]
+}
+
 // Do: a step of a chain (P3, P5 to P7).
 func (b *Bridge) Do(c int, s api.Step) (uint64, api.Errno) {
+	return b.step(c, s, b.others(c))
+}
+
+// step: one that comes to no error counts. Of the other chain it sees the headers that are handed in alone, so that both chains may take steps at the same time.
+func (b *Bridge) step(c int, s api.Step, others []header) (uint64, api.Errno) {
 	on := b.find(c)
 	if on == nil {
 		return 0, api.ErrChain
 	}
-	n, e := on.step(s, b.chains[1-c].headers)
+	n, e := on.step(s, others)
 	if e == api.OK {
 		b.taken.Add(1)
 	}
@@ -48,7 +62,9 @@ func (b *Bridge) Do(c int, s api.Step) (uint64, api.Errno) {
 
 // Run: steps of both chains at the same time (P8).
 func (b *Bridge) Run(first []api.Step, second []api.Step) ([]api.Errno, []api.Errno) {
-	return nil, nil
+	// Both ahead of either start: neither chain sees a header of this call.
+	ofSecond, ofFirst := b.ahead(0), b.ahead(1)
+	return gather(b.start(0, first, ofSecond), b.start(1, second, ofFirst))
 }
 
 // Taken: how many steps have been taken (P4).

@@ -44,18 +44,21 @@ func newPlain(coins uint64) *plainBridge {
 }
 
 func (b *plainBridge) do(k int, s api.Step) (uint64, api.Errno) {
-	n, e := b.step(k, s)
+	if k != 0 && k != 1 {
+		return 0, api.ErrChain
+	}
+	return b.step(k, s, b.chains[1-k].headers)
+}
+
+func (b *plainBridge) step(k int, s api.Step, others []plain) (uint64, api.Errno) {
+	n, e := b.chains[k].step(k, s, others)
 	if e == api.OK {
 		b.taken++
 	}
 	return n, e
 }
 
-func (b *plainBridge) step(k int, s api.Step) (uint64, api.Errno) {
-	if k != 0 && k != 1 {
-		return 0, api.ErrChain
-	}
-	c, others := &b.chains[k], b.chains[1-k].headers
+func (c *plain) step(k int, s api.Step, others []plain) (uint64, api.Errno) {
 	known := others[c.known]
 	switch s.Kind {
 	case api.Send:
@@ -198,12 +201,16 @@ func (c *plain) expire(k int, known plain, n uint64, closed bool) api.Errno {
 	return api.OK
 }
 
+func (c *plain) look() api.Look {
+	return api.Look{Height: c.height, Time: c.time, Known: uint64(c.known), Open: c.open, NextSend: c.nextSend, NextRecv: c.nextRecv,
+		Pending: slices.Sorted(maps.Keys(c.pending)), Locked: c.locked, About: c.about}
+}
+
 func (b *plainBridge) tell() state {
 	s := state{Taken: b.taken}
 	for k, c := range b.chains {
 		s.Funds[k] = c.funds
-		s.Looks[k] = api.Look{Height: c.height, Time: c.time, Known: uint64(c.known), Open: c.open, NextSend: c.nextSend, NextRecv: c.nextRecv,
-			Pending: slices.Sorted(maps.Keys(c.pending)), Locked: c.locked, About: c.about}
+		s.Looks[k] = c.look()
 		for _, h := range c.headers {
 			s.Heads[k] = append(s.Heads[k], api.Head{Height: h.height, Time: h.time, Open: h.open, NextRecv: h.nextRecv, Packets: len(h.pending), Answers: len(h.answers)})
 		}
@@ -302,6 +309,53 @@ func TestAsThePlainTelling(t *testing.T) {
 			if came[kind][e] == 0 {
 				t.Errorf("no step of kind %d came to %d", kind, e)
 			}
+		}
+	}
+}
+
+// likelyRun: lists of steps, each likely behind those ahead of it, and what comes of them by the plain telling: one chain's first, then the other's, each by the headers that the other had ahead of both.
+func (x *numbers) likelyRun(b *plainBridge) (lists [2][]api.Step, want [2][]api.Errno) {
+	others := [2][]plain{b.chains[1].headers, b.chains[0].headers}
+	turn := int(x.below(2))
+	for _, c := range [2]int{turn, 1 - turn} {
+		for range x.below(30) {
+			s := x.likely(b.chains[c].look(), uint64(len(others[c])))
+			_, e := b.step(c, s, others[c])
+			lists[c], want[c] = append(lists[c], s), append(want[c], e)
+		}
+	}
+	return lists, want
+}
+
+func TestRunAsThePlainTelling(t *testing.T) {
+	came := map[api.Kind]map[bool]int{}
+	x := numbers(5)
+	for round := range 150 {
+		coins := x.below(60)
+		b, want := begin(t, coins), newPlain(coins)
+		for k := range 25 {
+			lists, errors := x.likelyRun(want)
+			first, second := b.Run(lists[0], lists[1])
+			if !slices.Equal(first, errors[0]) || !slices.Equal(second, errors[1]) {
+				t.Fatalf("round %d, call %d: Run(%v, %v) =\n%v, %v, want\n%v, %v", round, k, lists[0], lists[1], first, second, errors[0], errors[1])
+			}
+			same(t, "the plain telling of Run", tell(t, b), want.tell())
+			for c := range 2 {
+				for i, s := range lists[c] {
+					if came[s.Kind] == nil {
+						came[s.Kind] = map[bool]int{}
+					}
+					came[s.Kind][errors[c][i] == api.OK]++
+				}
+				s := x.likely(look(t, b, c), look(t, b, 1-c).Height) // one by Do now and then between
+				n, e := want.do(c, s)
+				do(t, b, c, s, n, e)
+			}
+		}
+	}
+	for kind := api.Send; kind <= api.Confirm; kind++ {
+		if came[kind][true] == 0 || kind != api.Tick && came[kind][false] == 0 {
+			t.Errorf("steps of kind %d: %v", kind, came[kind])
 		}
 	}
 }

@@ -2,12 +2,13 @@ package bridge
 
 import "bridge/api"
 
-// update: others are the other chain's headers, by height. Those between are learned of too, because each says only what was new.
+// update: others are headers of the other chain, one for each height, from one that is not above the known one on. Those between are learned of too, because each says only what was new.
 func (c *chain) update(height uint64, others []header) api.Errno {
-	if height >= uint64(len(others)) || height <= c.known.Height {
+	from := others[0].Height
+	if height <= c.known.Height || height-from >= uint64(len(others)) {
 		return api.ErrHeader
 	}
-	for _, h := range others[c.known.Height+1 : height+1] {
+	for _, h := range others[c.known.Height+1-from : height+1-from] {
 		c.known.learn(h)
 	}
 	return api.OK
